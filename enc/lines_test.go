@@ -6,7 +6,7 @@ import (
 	"cooper/api"
 )
 
-// P5.1: lines whose words the Arm ARM tells, at least one of each class and of each of its rules.
+// P5.1: lines and the words that another assembler (llvm-mc 14) makes of them: at least one of each class and of each of its rules.
 func TestEncodeLines(t *testing.T) {
 	for _, c := range []struct {
 		line string
