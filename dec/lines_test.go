@@ -1,0 +1,195 @@
+package dec_test
+
+import (
+	"testing"
+
+	"cooper/api"
+	"cooper/dec"
+)
+
+// P6.1: words that another assembler (llvm-mc 14) makes of lines: each class, and more than one of most.
+func TestDecodeLines(t *testing.T) {
+	for _, c := range []struct {
+		line string
+		word uint32
+		x    api.Inst
+	}{
+		{"adr x9, #-3", 0x30ffffe9, api.Inst{Op: api.OpAdr, Rd: 9, A: -3}},
+		{"adrp x10, #8192", 0xd000000a, api.Inst{Op: api.OpAdr, X: true, Rd: 10, A: 2}},
+		{"sub w11, wsp, #7, lsl #12", 0x51401feb, api.Inst{Op: api.OpAddImm, Rd: 11, Rn: 31, A: 7, B: 1, C: 1}},
+		{"adds x12, x13, #4095", 0xb13ffdac, api.Inst{Op: api.OpAddImm, X: true, S: true, Rd: 12, Rn: 13, A: 4095}},
+		{"eor x1, x2, #0x3333333333333333", 0xd200e441, api.Inst{Op: api.OpLogImm, X: true, Rd: 1, Rn: 2, A: 0x3333333333333333, B: 2}},
+		{"ands x1, x2, #0xfffffffffffffffe", 0xf27ff841, api.Inst{Op: api.OpLogImm, X: true, Rd: 1, Rn: 2, A: -2, B: 3}},
+		{"ands w3, w4, #0xfffffffe", 0x721f7883, api.Inst{Op: api.OpLogImm, Rd: 3, Rn: 4, A: 0xfffffffe, B: 3}},
+		{"movn x5, #0xabcd, lsl #32", 0x92d579a5, api.Inst{Op: api.OpMovWide, X: true, Rd: 5, A: 0xabcd, C: 2}},
+		{"movk w6, #1, lsl #16", 0x72a00026, api.Inst{Op: api.OpMovWide, Rd: 6, A: 1, B: 3, C: 1}},
+		{"ubfm w7, w8, #24, #23", 0x53185d07, api.Inst{Op: api.OpBitfield, Rd: 7, Rn: 8, A: 24, B: 2, C: 23}},
+		{"bfm x9, x10, #60, #3", 0xb37c0d49, api.Inst{Op: api.OpBitfield, X: true, Rd: 9, Rn: 10, A: 60, B: 1, C: 3}},
+		{"extr w11, w12, w13, #7", 0x138d1d8b, api.Inst{Op: api.OpExtract, Rd: 11, Rn: 12, Rm: 13, A: 7}},
+		{"b.hi #-12", 0x54ffffa8, api.Inst{Op: api.OpBCond, A: -3, B: 8}},
+		{"bl #-4", 0x97ffffff, api.Inst{Op: api.OpB, S: true, A: -1}},
+		{"cbnz w14, #16", 0x3500008e, api.Inst{Op: api.OpCb, Rd: 14, A: 4, B: 1}},
+		{"tbz x15, #63, #-8", 0xb6ffffcf, api.Inst{Op: api.OpTb, Rd: 15, A: -2, C: 63}},
+		{"tbnz w16, #0, #32764", 0x3703fff0, api.Inst{Op: api.OpTb, Rd: 16, A: 8191, B: 1}},
+		{"blr x17", 0xd63f0220, api.Inst{Op: api.OpBr, Rn: 17, B: 1}},
+		{"ret x18", 0xd65f0240, api.Inst{Op: api.OpBr, Rn: 18, B: 2}},
+		{"eret", 0xd69f03e0, api.Inst{Op: api.OpBr, B: 4}},
+		{"svc #1", 0xd4000021, api.Inst{Op: api.OpExc, A: 1}},
+		{"dcps3 #65535", 0xd4bfffe3, api.Inst{Op: api.OpExc, A: 65535, B: 7}},
+		{"yield", 0xd503203f, api.Inst{Op: api.OpHint, A: 1}},
+		{"clrex #7", 0xd503375f, api.Inst{Op: api.OpBar, A: 7, B: 2}},
+		{"dmb ish", 0xd5033bbf, api.Inst{Op: api.OpBar, A: 11, B: 5}},
+		{"mrs x19, tpidr_el0", 0xd53bd053, api.Inst{Op: api.OpSysReg, Rd: 19, A: 24194, B: 1}},
+		{"msr daifclr, #2", 0xd50342ff, api.Inst{Op: api.OpMsrImm, A: 2, B: 2}},
+		{"msr dit, #1", 0xd503415f, api.Inst{Op: api.OpMsrImm, A: 1, B: 5}},
+		{"sys #3, c7, c4, #1, x20", 0xd50b7434, api.Inst{Op: api.OpSys, Rd: 20, A: 7073}},
+		{"sysl x21, #7, c15, c0, #2", 0xd52ff055, api.Inst{Op: api.OpSys, Rd: 21, A: 16258, B: 1}},
+		{"ldr x22, #-4", 0x58fffff6, api.Inst{Op: api.OpLdLit, Rd: 22, A: -1, B: 1}},
+		{"prfm pldl1keep, #8", 0xd8000040, api.Inst{Op: api.OpLdLit, A: 2, B: 3}},
+		{"ldpsw x23, x24, [x25], #-256", 0x68e06337, api.Inst{Op: api.OpPair, S: true, Rd: 23, Rn: 25, Ra: 24, A: -64, B: 1, C: 1}},
+		{"stnp w26, w27, [x28, #252]", 0x281fef9a, api.Inst{Op: api.OpPair, Rd: 26, Rn: 28, Ra: 27, A: 63}},
+		{"ldr x0, [sp, #32760]", 0xf97fffe0, api.Inst{Op: api.OpLdImm, Rn: 31, A: 4095, B: 3, C: 1}},
+		{"ldrsb w1, [x2, #1]", 0x39c00441, api.Inst{Op: api.OpLdImm, Rd: 1, Rn: 2, A: 1, C: 3}},
+		{"ldur x3, [x4, #-1]", 0xf85ff083, api.Inst{Op: api.OpLdIdx, Rd: 3, Rn: 4, A: -1, B: 3, C: 1}},
+		{"str w5, [x6, #-256]!", 0xb8100cc5, api.Inst{Op: api.OpLdIdx, Rd: 5, Rn: 6, Ra: 3, A: -256, B: 2}},
+		{"ldrsw x7, [x8], #255", 0xb88ff507, api.Inst{Op: api.OpLdIdx, Rd: 7, Rn: 8, Ra: 1, A: 255, B: 2, C: 2}},
+		{"sttrh w9, [x10, #3]", 0x78003949, api.Inst{Op: api.OpLdIdx, Rd: 9, Rn: 10, Ra: 2, A: 3, B: 1}},
+		{"ldr x11, [x12, w13, sxtw #3]", 0xf86dd98b, api.Inst{Op: api.OpLdReg, S: true, Rd: 11, Rn: 12, Rm: 13, A: 6, B: 3, C: 1}},
+		{"strb w14, [x15, x16]", 0x383069ee, api.Inst{Op: api.OpLdReg, Rd: 14, Rn: 15, Rm: 16, A: 3}},
+		{"stlxrh w17, w18, [x19]", 0x4811fe72, api.Inst{Op: api.OpEx, X: true, Rd: 18, Rn: 19, Rm: 17, B: 1}},
+		{"ldaxp x20, x21, [x22]", 0xc87fd6d4, api.Inst{Op: api.OpEx, X: true, S: true, Rd: 20, Rn: 22, Ra: 21, A: 1, B: 3}},
+		{"stxp w23, w24, w25, [x26]", 0x88376758, api.Inst{Op: api.OpEx, Rd: 24, Rn: 26, Rm: 23, Ra: 25, A: 1, B: 2}},
+		{"ldarb w27, [x28]", 0x08dfff9b, api.Inst{Op: api.OpEx, X: true, S: true, Rd: 27, Rn: 28, A: 2}},
+		{"stlr x29, [sp]", 0xc89ffffd, api.Inst{Op: api.OpEx, X: true, Rd: 29, Rn: 31, A: 2, B: 3}},
+		{"bics x0, x1, x2, ror #63", 0xeae2fc20, api.Inst{Op: api.OpLogReg, X: true, S: true, Rn: 1, Rm: 2, A: 63, B: 3, C: 3}},
+		{"orn w3, w4, w5, asr #31", 0x2aa57c83, api.Inst{Op: api.OpLogReg, S: true, Rd: 3, Rn: 4, Rm: 5, A: 31, B: 1, C: 2}},
+		{"subs w6, w7, w8, lsr #4", 0x6b4810e6, api.Inst{Op: api.OpAddReg, S: true, Rd: 6, Rn: 7, Rm: 8, A: 4, B: 1, C: 1}},
+		{"add x9, sp, w10, sxth #4", 0x8b2ab3e9, api.Inst{Op: api.OpAddExt, X: true, Rd: 9, Rn: 31, Rm: 10, A: 4, C: 5}},
+		{"sbcs x11, x12, x13", 0xfa0d018b, api.Inst{Op: api.OpAdc, X: true, S: true, Rd: 11, Rn: 12, Rm: 13, B: 1}},
+		{"ccmp w14, #31, #15, ge", 0x7a5fa9cf, api.Inst{Op: api.OpCcmp, S: true, Rn: 14, Rm: 31, A: 15, B: 1, C: 10}},
+		{"ccmn x15, x16, #0, lt", 0xba50b1e0, api.Inst{Op: api.OpCcmp, X: true, Rn: 15, Rm: 16, C: 11}},
+		{"csinv x17, x18, x19, vs", 0xda936251, api.Inst{Op: api.OpCsel, X: true, Rd: 17, Rn: 18, Rm: 19, A: 6, B: 2}},
+		{"csneg w20, w21, w22, nv", 0x5a96f6b4, api.Inst{Op: api.OpCsel, Rd: 20, Rn: 21, Rm: 22, A: 15, B: 3}},
+		{"cls w23, w24", 0x5ac01717, api.Inst{Op: api.OpDp1, Rd: 23, Rn: 24, B: 5}},
+		{"rev32 x25, x26", 0xdac00b59, api.Inst{Op: api.OpDp1, X: true, Rd: 25, Rn: 26, B: 2}},
+		{"rev w27, w28", 0x5ac00b9b, api.Inst{Op: api.OpDp1, Rd: 27, Rn: 28, B: 2}},
+		{"asr w0, w1, w2", 0x1ac22820, api.Inst{Op: api.OpDp2, Rn: 1, Rm: 2, B: 10}},
+		{"crc32cx w3, w4, x5", 0x9ac55c83, api.Inst{Op: api.OpDp2, X: true, Rd: 3, Rn: 4, Rm: 5, B: 23}},
+		{"umaddl x6, w7, w8, x9", 0x9ba824e6, api.Inst{Op: api.OpDp3, X: true, Rd: 6, Rn: 7, Rm: 8, Ra: 9, B: 5}},
+		{"msub w10, w11, w12, w13", 0x1b0cb56a, api.Inst{Op: api.OpDp3, Rd: 10, Rn: 11, Rm: 12, Ra: 13, B: 1}},
+		{"smulh x14, x15, x16", 0x9b507dee, api.Inst{Op: api.OpDp3, X: true, Rd: 14, Rn: 15, Rm: 16, B: 4}},
+	} {
+		if x, e := dec.Decode(c.word); x != c.x || e != api.OK {
+			t.Errorf("Decode(%08x), %s: %+v, %d", c.word, c.line, x, e)
+		}
+		if op := dec.Class(c.word); op != c.x.Op {
+			t.Errorf("Class(%08x), %s: %d", c.word, c.line, op)
+		}
+	}
+}
+
+// P6.1: words that are none: of what the subset leaves out, and such as are near to one that there is.
+func TestDecodeNone(t *testing.T) {
+	for w, why := range map[uint32]string{
+		0x00000000:         "udf #0",
+		0x00000001:         "udf #1",
+		0xffffffff:         "all ones",
+		0x1e622820:         "fadd d0, d1, d2",
+		0x3dc00000:         "ldr q0, [x0]",
+		0xad4007e0:         "ldp q0, q1, [sp]",
+		0xbc256883:         "str s3, [x4, x5]",
+		0x1c000000:         "ldr s0, .",
+		0x4e228420:         "add v0.16b, v1.16b, v2.16b",
+		0xb8200041:         "ldadd w0, w1, [x2]",
+		0xf8208041:         "swp x0, x1, [x2]",
+		0x88a07c41:         "cas w0, w1, [x2]",
+		0x08207c82:         "casp w0, w1, w2, w3, [x4]",
+		0xb8bfc020:         "ldapr w0, [x1]",
+		0x88df7c20:         "ldlar w0, [x1]",
+		0xc89f7c20:         "stllr x0, [x1]",
+		0x3a00080d:         "setf8 w0",
+		0xba008402:         "rmif x0, #1, #2",
+		0xd500401f:         "cfinv",
+		0xdac10020:         "pacia x0, x1",
+		0xd71f0801:         "braa x0, x1",
+		0xd63f087f:         "blraaz x3",
+		0xd65f0bff:         "retaa",
+		0xd69f0bff:         "eretaa",
+		0xd6bf03e0:         "drps",
+		0x9adf1020:         "irg x0, x1",
+		0x9ac20020:         "subp x0, x1, x2",
+		0x91810820:         "addg x0, x1, #16, #2",
+		0xd9200820:         "stg x0, [x1]",
+		0xd50330ff:         "sb",
+		0xd503307f:         "tcommit",
+		0xd5031000:         "wfet x0",
+		0x9e660020:         "fmov x0, d1",
+		0x5e280820:         "sha1h s0, s1",
+		0x12400020:         "and of 32 bits with N",
+		0x9200fc20:         "and of ones everywhere",
+		0x92200020:         "and of an element of 32 bits turned by 32",
+		0x32800000:         "a mov wide with B 1",
+		0x52c00000:         "movz w0, #0, lsl #32",
+		0x93000020:         "sbfm of 64 bits without the second X",
+		0x13400020:         "sbfm of 32 bits with the second X",
+		0x53208020:         "ubfm w0, w1, #32, #32",
+		0x13800000 | 1<<15: "extr w0, w0, w0, #32",
+		0x93800000:         "extr of 64 bits without the second X",
+		0x13a00000:         "extr with bit 21",
+		0x54000050:         "b.eq with bit 4",
+		0xd65f03c1:         "ret with a bit of Rd",
+		0xd67f0000:         "a branch to a register with B 3",
+		0xd69f0000:         "eret with a register",
+		0xd4000000:         "an exception of opc 0, LL 0",
+		0xd4200001:         "an exception of opc 1, LL 1",
+		0xd4600000:         "an exception of opc 3",
+		0xd4a00000:         "an exception of opc 5, LL 0",
+		0xd4000005:         "svc with bit 2",
+		0xd503201e:         "nop with a 0 behind",
+		0xd503301f:         "a barrier with B 0",
+		0xd50340bf:         "msr of op1 3, op2 5",
+		0xd50140ff:         "msr of op1 1",
+		0xe9000420:         "a pair with B 3",
+		0x69000420:         "stgp: a store with B 1",
+		0x68400420:         "ldpsw, not kept",
+		0xa9400000:         "ldp x0, x0, [x0]",
+		0xa8c10421:         "ldp x1, x1, [x1], #16",
+		0xa8810420:         "stp x0, x1, [x1], #16",
+		0xb9c00020:         "a load of 32 bits with opc 3",
+		0xf9c00020:         "a load of 64 bits with opc 3",
+		0xf8408400:         "ldr x0, [x0], #8",
+		0xf8800c20:         "prfm with the base changed ahead",
+		0xf8628820:         "ldr x0, [x1, x2] with A 4",
+		0xf8626820 ^ 1<<10: "ldr x0, [x1, x2] with bit 10",
+		0xc8007c20:         "stxr w0, x0, [x1]",
+		0xc8017c20:         "stxr w1, x0, [x1]",
+		0xc8021020:         "stxr w2, x0, [x1] with Ra",
+		0xc8427c20:         "ldxr x0, [x1] with Rm",
+		0xc8bffc20:         "an ordered pair",
+		0x08207c20:         "a pair of 8 bits",
+		0x8bc20020:         "add with ror",
+		0x0b028020:         "add w0, w1, w2, lsl #32",
+		0x8b221420:         "add x0, x1, w2, uxtb #5",
+		0x9a020420:         "adc with bit 10",
+		0xfa400410:         "ccmp with bits 10 and 4",
+		0xfa400010:         "ccmp with bit 4",
+		0x9a820820:         "csel with bit 11",
+		0xba820020:         "csel with bit 29",
+		0x5ac00c20:         "rev of 64 bits without X",
+		0xdac01820:         "of one source with B 6",
+		0x9ac21020:         "of two sources with B 4",
+		0x1ac24c20:         "crc32x without X",
+		0x9ac24020:         "crc32b with X",
+		0x1b220c20:         "smaddl without X",
+		0x9b420020:         "smulh with Ra",
+		0x9b42fc20:         "smulh with o0",
+		0x9b627c20:         "of three sources with op31 3",
+	} {
+		if x, e := dec.Decode(w); x != (api.Inst{}) || e != api.ErrNone {
+			t.Errorf("Decode(%08x), %s: %+v, %d", w, why, x, e)
+		}
+		if op := dec.Class(w); op != 0 {
+			t.Errorf("Class(%08x), %s: %d", w, why, op)
+		}
+	}
+}
