@@ -72,9 +72,9 @@ func Grows(l api.Line) (int64, int64, bool) {
 
 // Pieces goes through all pieces, part by part.
 func Pieces(u api.Unit) iter.Seq2[int, api.Piece] {
-	kept := clonedParts(u.Parts)
+	parts := kept(u.Parts)
 	return func(yield func(int, api.Piece) bool) {
-		for part, p := range pieces(kept) {
+		for part, p := range pieces(parts) {
 			// Whoever is told a piece may change its lists, and range again.
 			if !yield(part, clonedPiece(p)) {
 				return

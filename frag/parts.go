@@ -61,14 +61,12 @@ func samePiece(a, b api.Piece) bool {
 		a.V == b.V && a.Size == b.Size && bytes.Equal(a.B, b.B) && a.Align == b.Align
 }
 
-// clonedParts are parts in memory of their own.
-func clonedParts(l []api.Part) []api.Part {
-	c := slices.Clone(l)
-	for i, p := range c {
-		c[i].Name = strings.Clone(p.Name)
-		c[i].Pieces = slices.Clone(p.Pieces)
-		for j, x := range c[i].Pieces {
-			c[i].Pieces[j] = clonedPiece(x)
+// kept are parts of nothing but their pieces, in memory of their own.
+func kept(l []api.Part) []api.Part {
+	c := make([]api.Part, len(l))
+	for i, p := range l {
+		for _, x := range p.Pieces {
+			c[i].Pieces = append(c[i].Pieces, clonedPiece(x))
 		}
 	}
 	return c
